@@ -438,23 +438,29 @@ func TestOneBitMakesADifference(t *testing.T) { // P2.4
 	}
 }
 
+// turn turns bits over that follow one another from one on, those of each byte from its lowest or its highest one on.
+func turn(b []byte, from int, bits uint8, highest bool) {
+	for i := range 8 {
+		at, place := (from+i)/8, (from+i)%8
+		if highest {
+			place = 7 - place
+		}
+		b[at] ^= bits >> i & 1 << place
+	}
+}
+
 func TestEightBitsMakeADifference(t *testing.T) { // P2.4
 	const many = 12
 	for _, b := range [][]byte{make([]byte, many), odds(many)} {
 		sum := digest.Of(b)
-		for bit := range 8*many - 7 {
-			for other := 1; other < 256; other++ {
-				laid := uint(other) << (bit % 8)
-				b[bit/8] ^= byte(laid)
-				if laid > 255 {
-					b[bit/8+1] ^= byte(laid >> 8)
-				}
-				if digest.Of(b) == sum {
-					t.Fatalf("%08b from bit %d on: the same sum", other, bit)
-				}
-				b[bit/8] ^= byte(laid)
-				if laid > 255 {
-					b[bit/8+1] ^= byte(laid >> 8)
+		for from := range 8*many - 7 {
+			for bits := uint8(1); bits != 0; bits++ {
+				for _, highest := range []bool{false, true} {
+					turn(b, from, bits, highest)
+					if digest.Of(b) == sum {
+						t.Fatalf("%08b from bit %d on: the same sum", bits, from)
+					}
+					turn(b, from, bits, highest)
 				}
 			}
 		}
